@@ -1,0 +1,1 @@
+"""Leads: the strips of a cartoon's leads, and their pieces."""
