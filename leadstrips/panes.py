@@ -4,20 +4,12 @@ from leadstrips.points import turn
 from leadstrips.ways import neighbours_of
 
 
-def side(u, v, p):
-    """1 if p is to the left for one who goes from u to v, 0 if right ahead, -1 if to the right."""
-    turned = turn(u, v, p)
-    if turned > 0:
-        return 1
-    return -1 if turned < 0 else 0
-
-
 def more_left(u, v, p, q):
     """Whether, for one who comes from u to v, p lies more to the left than q."""
-    p_side = side(u, v, p)
-    q_side = side(u, v, q)
-    if p_side != q_side:
-        return p_side > q_side
+    p_to_the_right = turn(u, v, p) < 0
+    q_to_the_right = turn(u, v, q) < 0
+    if p_to_the_right != q_to_the_right:
+        return q_to_the_right
     return turn(v, q, p) > 0
 
 
@@ -55,19 +47,21 @@ def twice_area(corners):
 
 
 def panes_of(drawing):
-    """Pane by pane its corners, each a point (x, y), with the pane to the left all the way round."""
+    """Pane by pane its corners, each a point (x, y), with the pane to the left all the way round.
+
+    An outline goes somewhere from a lesser number to a greater, along a line as it's written: these find them all.
+    """
     neighbours = neighbours_of(drawing)
     gone = {}
     panes = []
     for line in drawing.lines:
-        for way in (line, (line[1], line[0])):
-            if way not in gone:
-                outline = outline_from(drawing.points, neighbours, way[0], way[1])
-                for first, second in zip(outline, outline[1:] + outline[:1]):
-                    gone[(first, second)] = True
-                corners = [drawing.points[i] for i in outline]
-                if twice_area(corners) > 0:
-                    panes.append(corners)
+        if line not in gone:
+            outline = outline_from(drawing.points, neighbours, line[0], line[1])
+            for way in zip(outline, outline[1:] + outline[:1]):
+                gone[way] = True
+            corners = [drawing.points[i] for i in outline]
+            if twice_area(corners) > 0:
+                panes.append(corners)
     return panes
 
 

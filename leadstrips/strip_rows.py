@@ -25,20 +25,16 @@ def walked(drawing, joined, lead, start):
     return Strip(leads, points)
 
 
-def ring_from_least(drawing, joined, strip):
-    """The ring from its least point on, first along the lowest of its leads there."""
-    least = min(strip.points)
-    first = min([lead for lead in strip.leads if least in drawing.lines[lead]])
-    return walked(drawing, joined, first, least)
+def strip_of_least(drawing, joined, lead):
+    """The strip whose least lead this is, from the end from which it's told.
 
-
-def strip_with(drawing, joined, lead):
-    """The strip in which the lead lies, from the end from which it is told."""
+    A ring's least lead has the ring's least point first, as the lines are in order: so it's told from there along it.
+    """
     there = walked(drawing, joined, lead, drawing.lines[lead][0])
     last = there.leads[-1]
     end = there.points[-1]
     if (last, end) in joined:
-        return ring_from_least(drawing, joined, there)
+        return there
     back = walked(drawing, joined, last, end)
     if (back.points[-1], back.leads[-1]) < (end, last):
         return walked(drawing, joined, back.leads[-1], back.points[-1])
@@ -52,7 +48,7 @@ def strips_of(drawing, a, b):
     strips_so_far = []
     for lead in leads_of(drawing):
         if lead not in taken:
-            strip = strip_with(drawing, joined, lead)
+            strip = strip_of_least(drawing, joined, lead)
             for other in strip.leads:
                 taken[other] = True
             strips_so_far.append(strip)

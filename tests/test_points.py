@@ -1,6 +1,6 @@
 import unittest
 
-from leadstrips.points import comes_behind, cross, lies_on, onward, turn
+from leadstrips.points import apart, comes_behind, cross, lies_on, onward, turn
 
 
 class Turns(unittest.TestCase):
@@ -47,6 +47,12 @@ class OnALine(unittest.TestCase):
 
 
 class Crossing(unittest.TestCase):
+    def test_apart_only_with_neither_in_the_row(self):
+        left, row, right = (4, 3), (9, 0), (4, -3)
+        for r in (left, row, right):
+            for s in (left, row, right):
+                self.assertEqual(apart((0, 0), (5, 0), r, s), {r, s} == {left, right})
+
     def test_one_across_the_other(self):
         self.assertTrue(cross((0, 0), (4, 4), (0, 4), (4, 0)))
         self.assertTrue(cross((4, 4), (0, 0), (0, 4), (4, 0)))

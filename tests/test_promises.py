@@ -1,11 +1,12 @@
 """Cartoons made at random (the same ones every time), and what holds of every answer."""
 
+import math
 import random
 import unittest
 from fractions import Fraction
 
-from cartoons import Window, rows_of
-from leadstrips.shop import strips
+from cartoons import Window, pieces_of, rows_of
+from leadstrips.shop import pieces, strips
 
 CELL = 20
 BENDS = ((0, 1), (1, 10), (1, 2), (1, 1), (3, 1), (1000, 1))
@@ -203,6 +204,81 @@ class Strips(unittest.TestCase):
                     leads = [tuple(kin(*window.points[i]) for i in window.lines[lead]) for lead in window.leads]
                     other = Window(*size, leads, [kin(*point) for point in window.points])
                     self.assertEqual(strips(1, 1, 60, 2, 1, other.cartoon)[1], count)
+
+
+def lengths_in(window):
+    """Each lead's length, by its number."""
+    lengths = {}
+    for lead in window.leads:
+        (px, py), (qx, qy) = [window.points[i] for i in window.lines[lead]]
+        lengths[lead] = math.isqrt((qx - px) ** 2 + (qy - py) ** 2 - 1) + 1
+    return lengths
+
+
+class Pieces(unittest.TestCase):
+    joint = 3
+
+    def each(self):
+        """Window by window its lengths, its strips, and the pieces of each strip, with several bars."""
+        for window in WINDOWS:
+            lengths = lengths_in(window)
+            longest = max(lengths.values()) + 2 * self.joint
+            rows = rows_of(strips(1, 1, 1, 0, 0, window.cartoon))
+            for bar in (longest, longest + 7, 2 * longest, 3 * longest, 100 * longest):
+                told = pieces_of(pieces(1, 1, bar, self.joint, 1, window.cartoon))
+                parts = []
+                for row in rows:
+                    parts.append([])
+                    while self.gone(parts[-1]) < len(row) - 1:
+                        parts[-1].append(told.pop(0))
+                self.assertEqual(told, [])
+                yield bar, lengths, window, rows, parts
+
+    def gone(self, parts):
+        """How many leads these pieces have."""
+        return sum(len(row) - 1 for length, row in parts)
+
+    def test_the_pieces_of_a_strip_are_its_row(self):
+        for bar, lengths, window, rows, parts in self.each():
+            for row, told in zip(rows, parts):
+                together = told[0][1][:1]
+                for length, part in told:
+                    self.assertEqual(part[0], together[-1])
+                    self.assertGreater(len(part), 1)
+                    together += part[1:]
+                self.assertEqual(together, row)
+
+    def test_each_lead_lies_in_one_piece(self):
+        for bar, lengths, window, rows, parts in self.each():
+            leads = [lead for told in parts for length, part in told for lead in leads_along(window, part)]
+            self.assertEqual(sorted(leads), window.leads)
+
+    def test_lengths_of_pieces(self):
+        for bar, lengths, window, rows, parts in self.each():
+            for told in parts:
+                for length, part in told:
+                    self.assertEqual(length, sum(lengths[lead] for lead in leads_along(window, part)) + 2 * self.joint)
+
+    def test_no_longer_than_a_bar_but_with_the_next_lead(self):
+        for bar, lengths, window, rows, parts in self.each():
+            for told in parts:
+                self.assertTrue(all(length <= bar for length, part in told))
+                for (length, part), (after, following) in zip(told, told[1:]):
+                    self.assertGreater(length + lengths[leads_along(window, following)[0]], bar)
+
+    def test_with_a_greater_bar_no_more_pieces(self):
+        for window in WINDOWS:
+            longest = max(lengths_in(window).values()) + 2 * self.joint
+            counts = [pieces(1, 1, bar, self.joint, 1, window.cartoon)[1] for bar in range(longest, 4 * longest, 9)]
+            self.assertEqual(counts, sorted(counts, reverse=True))
+
+    def test_the_least_lead_that_is_too_long(self):
+        for window in WINDOWS:
+            lengths = lengths_in(window)
+            for length in sorted(set(lengths.values())):
+                bar = length - 1 + 2 * self.joint
+                least = min(lead for lead in lengths if lengths[lead] >= length)
+                self.assertEqual(pieces(1, 1, bar, self.joint, 1, window.cartoon), [-3, least])
 
 
 if __name__ == "__main__":

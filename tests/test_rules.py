@@ -112,6 +112,11 @@ class Rule2(Rules):
             for height in (16, 1048575):
                 self.sound(Window(width, height, []).cartoon)
 
+    def test_each_byte_of_width_and_height_counts(self):
+        for high in (2 ** 16 * 16, 2 ** 24, 2 ** 31):
+            self.faulty(run(width=high + 30), 2, 4)
+            self.faulty(run(height=high + 20), 2, 8)
+
     def test_the_least_place_of_several(self):
         self.faulty(run(width=15, height=15, counts=(3, 3, 0), spare=(1, 1)), 2, 4)
         self.faulty(run(height=15, counts=(3, 3, 0), spare=(1, 1)), 2, 8)
@@ -183,6 +188,7 @@ class Rule5(Rules):
         self.faulty(self.changed(6, (65534, 65535)), 5, line_place(6))
 
     def test_not_behind_the_one_before(self):
+        self.faulty(self.changed(1, (0, 1)), 5, line_place(1))
         self.faulty(self.changed(2, (0, 2)), 5, line_place(2))
         self.faulty(run(lines=[(0, 1), (0, 3), (0, 2), (1, 2), (1, 4), (2, 3), (3, 4)]), 5, line_place(2))
         self.faulty(run(lines=[(0, 1), (0, 2), (1, 4), (0, 3), (1, 2), (2, 3), (3, 4)]), 5, line_place(3))

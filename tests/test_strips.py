@@ -267,6 +267,27 @@ class Large(StripTest):
         level = [[(10 * x, 10 * y) for x in range(columns)] for y in range(1, rows - 1)]
         self.told(window, 1000, 1, *(upright + level))
 
+    def test_200_points_and_more_than_255_panes(self):
+        leads = []
+        for x in range(20):
+            for y in range(10):
+                for end in ((x + 1, y), (x, y + 1), (x + 1, y + 1)):
+                    on_edge = x == end[0] in (0, 19) or y == end[1] in (0, 9)
+                    if end[0] < 20 and end[1] < 10 and not on_edge:
+                        leads.append(((10 * x, 10 * y), (10 * end[0], 10 * end[1])))
+        window = Window(190, 90, leads)
+        self.assertEqual((len(window.points), len(window.marks)), (200, 342))
+        self.assertTrue(window.whole)
+        for bend in (0, 1000):
+            rows = rows_of(strips(bend, 1, 60, 2, 1, window.cartoon))
+            for row in rows:
+                (x, y), (u, v) = [window.points[i] for i in row[:2]]
+                steps = [window.points[i] for i in row]
+                self.assertEqual(steps, [(x + k * (u - x), y + k * (v - y)) for k in range(len(row))])
+                for p, q in (steps[0], steps[-1]):
+                    self.assertTrue(p in (0, 190) or q in (0, 90))
+            self.assertEqual(len(rows), 18 + 8 + 27)
+
     def test_a_point_with_very_many_leads(self):
         v = (98, 50)
         ends = [(x, y) for x in range(1, 196, 2) for y in (0, 100)]
