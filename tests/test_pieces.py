@@ -184,7 +184,9 @@ class NothingKept(unittest.TestCase):
         pieces(1, 1, 60, 2, 1, STRAIGHT.cartoon)
         first.append(7)
         self.assertEqual(pieces(1, 1, 40, 2, 1, run()), kept)
-        self.assertEqual(pieces(1, 1, 26, 2, 1, run()), pieces(1, 1, 26, 2, 1, run()))
+        for cartoon in (run(), run()[:-1], STRAIGHT.cartoon):
+            for bar in (40, 26):
+                self.assertEqual(pieces(1, 1, bar, 2, 1, cartoon), pieces(1, 1, bar, 2, 1, cartoon))
 
     def test_the_answer_is_a_list_of_whole_numbers(self):
         for a, bar, cartoon in ((1, 60, run()), (1, 26, run()), (1001, 60, run()), (1, 60, [])):

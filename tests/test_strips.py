@@ -1,6 +1,6 @@
 import unittest
 
-from cartoons import SHOP, Window, number, rows_of, run
+from cartoons import SHOP, Window, rows_of, run
 from leadstrips.shop import strips
 
 OCTAGON = [(30, 20), (40, 20), (50, 30), (50, 40), (40, 50), (30, 50), (20, 40), (20, 30)]
@@ -339,8 +339,10 @@ class NothingKept(unittest.TestCase):
         first = strips(*SHOP, run())
         kept = list(first)
         strips(0, 1, 60, 2, 1, Window(40, 40, [((0, 0), (40, 40))]).cartoon)
-        first.append(number(7, 1))
+        first.append(7)
         self.assertEqual(strips(*SHOP, run()), kept)
+        for cartoon in (run(), run()[:-1], Window(40, 40, [((0, 0), (40, 40))]).cartoon):
+            self.assertEqual(strips(*SHOP, cartoon), strips(*SHOP, cartoon))
 
     def test_the_answer_is_a_list_of_whole_numbers(self):
         for answer in (strips(*SHOP, run()), strips(0, 0, 0, 0, 0, []), strips(*SHOP, [])):
