@@ -1,5 +1,8 @@
 """Pieces: strips parted so that each piece comes from one bar."""
 
+from leadstrips.lengths import lengths_of
+from leadstrips.strip_rows import strips_of
+
 
 class Piece:
     """A piece's length, what its joints need included, and its row of points."""
@@ -32,9 +35,10 @@ def parted(strip, lengths, bar, joint):
     return pieces_so_far
 
 
-def pieces_of(strips_in_order, lengths, bar, joint):
-    """The pieces of all strips, strip by strip."""
+def pieces_of(drawing, a, b, bar, joint):
+    """The pieces of a drawing's strips, strip by strip; none of its leads is too long."""
+    lengths = lengths_of(drawing)
     pieces_so_far = []
-    for strip in strips_in_order:
+    for strip in strips_of(drawing, a, b):
         pieces_so_far.extend(parted(strip, lengths, bar, joint))
     return pieces_so_far

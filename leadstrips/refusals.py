@@ -1,5 +1,8 @@
 """What is refused, in the order in which it's looked at."""
 
+from leadstrips.drawing import drawing_of
+from leadstrips.lengths import lengths_of
+from leadstrips.piece_rows import lead_too_long
 from leadstrips.rules import first_fault
 
 MOST_BYTES = 131072
@@ -20,4 +23,15 @@ def refusal_of(a, b, bar, joint, loss, cartoon):
     fault = first_fault(cartoon)
     if fault is not None:
         return [-5] + fault
+    return None
+
+
+def refusal_of_parting(a, b, bar, joint, loss, cartoon):
+    """The same, and the refusal of a lead that is too long for any piece."""
+    refusal = refusal_of(a, b, bar, joint, loss, cartoon)
+    if refusal is not None:
+        return refusal
+    too_long = lead_too_long(lengths_of(drawing_of(cartoon)), bar, joint)
+    if too_long is not None:
+        return [-3, too_long]
     return None

@@ -1,10 +1,10 @@
 """The calls: each takes a shop's five numbers and a cartoon's bytes, and answers with one list of whole numbers."""
 
+from leadstrips.bar_rows import bars_of
 from leadstrips.drawing import drawing_of
-from leadstrips.lengths import lengths_of
-from leadstrips.piece_rows import lead_too_long
 from leadstrips.piece_rows import pieces_of
 from leadstrips.refusals import refusal_of
+from leadstrips.refusals import refusal_of_parting
 from leadstrips.strip_rows import strips_of
 
 
@@ -23,17 +23,21 @@ def strips(a, b, bar, joint, loss, cartoon):
 
 def pieces(a, b, bar, joint, loss, cartoon):
     """0, how many pieces, and of each its length, how many numbers its row has and these: its points' numbers."""
-    refusal = refusal_of(a, b, bar, joint, loss, cartoon)
+    refusal = refusal_of_parting(a, b, bar, joint, loss, cartoon)
     if refusal is not None:
         return refusal
-    drawing = drawing_of(cartoon)
-    lengths = lengths_of(drawing)
-    too_long = lead_too_long(lengths, bar, joint)
-    if too_long is not None:
-        return [-3, too_long]
-    told = pieces_of(strips_of(drawing, a, b), lengths, bar, joint)
+    told = pieces_of(drawing_of(cartoon), a, b, bar, joint)
     answer = [0, len(told)]
     for piece in told:
         answer.extend([piece.length, len(piece.points)])
         answer.extend(piece.points)
     return answer
+
+
+def bars(a, b, bar, joint, loss, cartoon):
+    """0, how many pieces, and the number of each piece's bar."""
+    refusal = refusal_of_parting(a, b, bar, joint, loss, cartoon)
+    if refusal is not None:
+        return refusal
+    told = bars_of(pieces_of(drawing_of(cartoon), a, b, bar, joint), bar, loss)
+    return [0, len(told)] + told

@@ -5,6 +5,7 @@ built here and taken by the program is a test of its rules too.
 """
 
 from fractions import Fraction
+from math import isqrt
 
 SHOP = (1, 1, 60, 2, 1)
 
@@ -152,6 +153,19 @@ class Window:
         for length, row in pieces:
             answer += [length] + self.row(row)
         return answer
+
+
+def fence(lengths, height=16):
+    """A window with posts from its lower edge to its upper one: post i is piece i, with the i-th of the lengths.
+
+    Each length is from height on and below height * height, so that it's what a distance is rounded up to.
+    """
+    posts, at = [], 2
+    for length in lengths:
+        aside = isqrt(length * length - height * height)
+        posts.append(((at, 0), (at + aside, height)))
+        at += aside + 2
+    return Window(max(at, 16), height, posts)
 
 
 def rows_of(answer):

@@ -6,7 +6,13 @@ import re
 import unittest
 
 PACKAGE = pathlib.Path(__file__).resolve().parent.parent / "leadstrips"
-CALLS = {"shop.py": {"strips": "a b bar joint loss cartoon", "pieces": "a b bar joint loss cartoon"}}
+CALLS = {
+    "shop.py": {
+        "strips": "a b bar joint loss cartoon",
+        "pieces": "a b bar joint loss cartoon",
+        "bars": "a b bar joint loss cartoon",
+    },
+}
 
 # Python's own names, statements, methods and words as far as the package may use them.
 NAMES = set(

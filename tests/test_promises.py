@@ -6,7 +6,7 @@ import unittest
 from fractions import Fraction
 
 from cartoons import Window, pieces_of, rows_of
-from leadstrips.shop import pieces, strips
+from leadstrips.shop import bars, pieces, strips
 
 CELL = 20
 BENDS = ((0, 1), (1, 10), (1, 2), (1, 1), (3, 1), (1000, 1))
@@ -279,6 +279,55 @@ class Pieces(unittest.TestCase):
                 bar = length - 1 + 2 * self.joint
                 least = min(lead for lead in lengths if lengths[lead] >= length)
                 self.assertEqual(pieces(1, 1, bar, self.joint, 1, window.cartoon), [-3, least])
+
+
+class Bars(unittest.TestCase):
+    @classmethod
+    def setUpClass(cls):
+        """Of each window, with several bars and losses: its cartoon, the shop, the pieces' lengths and their bars."""
+        cls.each = []
+        for window in WINDOWS:
+            longest = max(lengths_in(window).values()) + 6
+            for bar in (longest, longest + 7, 2 * longest, 5 * longest):
+                for loss in (0, 1, 9, 200):
+                    shop = (1, 1, bar, 3, loss)
+                    lengths = [length for length, row in pieces_of(pieces(*shop, window.cartoon))]
+                    cls.each.append((window.cartoon, shop, lengths, bars(*shop, window.cartoon)))
+
+    def test_a_bar_for_each_piece(self):
+        for cartoon, shop, lengths, answer in self.each:
+            self.assertEqual(answer[:2], [0, len(lengths)])
+            self.assertEqual(len(answer), 2 + len(lengths))
+
+    def on_bars(self, lengths, row):
+        """Bar by bar the lengths on it; no number is left out."""
+        self.assertEqual(sorted(set(row)), list(range(max(row) + 1)))
+        return [[length for length, chosen in zip(lengths, row) if chosen == number] for number in range(max(row) + 1)]
+
+    def test_on_no_bar_too_much(self):
+        for cartoon, (a, b, bar, joint, loss), lengths, (ok, count, *row) in self.each:
+            for there in self.on_bars(lengths, row):
+                self.assertLessEqual(sum(there) + loss * (len(there) - 1), bar)
+
+    def test_any_two_bars_are_together_too_much_for_one(self):
+        several = 0
+        for cartoon, (a, b, bar, joint, loss), lengths, (ok, count, *row) in self.each:
+            on = self.on_bars(lengths, row)
+            for i, first in enumerate(on):
+                for second in on[:i]:
+                    both = first + second
+                    self.assertGreater(sum(both) + loss * (len(both) - 1), bar)
+                    several += len(both) > 3
+        self.assertGreater(several, 1000)
+
+    def test_each_piece_on_the_first_bar_on_which_it_fits(self):
+        for cartoon, (a, b, bar, joint, loss), lengths, (ok, count, *row) in self.each:
+            order = sorted(range(len(lengths)), key=lambda piece: (-lengths[piece], piece))
+            for i, piece in enumerate(order):
+                for earlier in range(row[piece]):
+                    there = [lengths[other] for other in order[:i] if row[other] == earlier]
+                    self.assertTrue(there)
+                    self.assertGreater(sum(there) + lengths[piece] + loss * len(there), bar)
 
 
 if __name__ == "__main__":
