@@ -27,3 +27,12 @@ def bars_of(pieces_in_order, bar, loss):
         taken[chosen] += length + loss
         row[number] = chosen
     return row
+
+
+def overfull_bar(pieces_in_order, row, bar, loss):
+    """The least number of a bar on which there's too much if each piece is on its bar in the row, or None."""
+    taken = {}
+    for piece, number in zip(pieces_in_order, row):
+        taken[number] = taken.get(number, 0) + piece.length + loss
+    # Of a bar's pieces one needs no cut.
+    return min([number for number, gone in taken.items() if gone - loss > bar], default=None)

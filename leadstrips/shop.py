@@ -1,6 +1,7 @@
 """The calls: each takes a shop's five numbers and a cartoon's bytes, and answers with one list of whole numbers."""
 
 from leadstrips.bar_rows import bars_of
+from leadstrips.bar_rows import overfull_bar
 from leadstrips.drawing import drawing_of
 from leadstrips.piece_rows import pieces_of
 from leadstrips.refusals import refusal_of
@@ -41,3 +42,17 @@ def bars(a, b, bar, joint, loss, cartoon):
         return refusal
     told = bars_of(pieces_of(drawing_of(cartoon), a, b, bar, joint), bar, loss)
     return [0, len(told)] + told
+
+
+def judge(a, b, bar, joint, loss, cartoon, row):
+    """0 alone if on no bar of the row there's too much; else 0, 1 and the least number of such a bar."""
+    refusal = refusal_of_parting(a, b, bar, joint, loss, cartoon)
+    if refusal is not None:
+        return refusal
+    told = pieces_of(drawing_of(cartoon), a, b, bar, joint)
+    if len(row) != len(told):
+        return [-2]
+    overfull = overfull_bar(told, row, bar, loss)
+    if overfull is None:
+        return [0]
+    return [0, 1, overfull]

@@ -168,6 +168,16 @@ def fence(lengths, height=16):
     return Window(max(at, 16), height, posts)
 
 
+class Held(list):
+    """A list that may be read and not changed, not for a while either."""
+
+    def changed(self, *what, **how):
+        raise AssertionError("what is handed in was changed")
+
+    append = clear = extend = insert = pop = remove = reverse = sort = changed
+    __setitem__ = __delitem__ = __iadd__ = __imul__ = changed
+
+
 def rows_of(answer):
     """The rows that an answer of strips tells."""
     rows, at = [], 2

@@ -1,7 +1,7 @@
 import random
 import unittest
 
-from cartoons import SHOP, Window, fence, pieces_of, run
+from cartoons import SHOP, Held, Window, fence, pieces_of, run
 from leadstrips.shop import bars, pieces
 
 # A strip of 10, 15, 15 and 20 straight across, and three short ones that end at it.
@@ -252,6 +252,11 @@ class NothingKept(unittest.TestCase):
                 before = list(cartoon)
                 bars(1, 1, bar, 2, 1, cartoon)
                 self.assertEqual(cartoon, before)
+
+    def test_it_is_not_changed_for_a_while_either(self):
+        for cartoon in (run(), run()[:-1]):
+            for bar in (60, 40, 26):
+                self.assertEqual(bars(1, 1, bar, 2, 1, Held(cartoon)), bars(1, 1, bar, 2, 1, cartoon))
 
     def test_a_second_call_answers_the_same(self):
         first = bars(1, 1, 40, 2, 1, run())

@@ -11,6 +11,7 @@ CALLS = {
         "strips": "a b bar joint loss cartoon",
         "pieces": "a b bar joint loss cartoon",
         "bars": "a b bar joint loss cartoon",
+        "judge": "a b bar joint loss cartoon row",
     },
 }
 

@@ -1,6 +1,6 @@
 import unittest
 
-from cartoons import SHOP, Window, pieces_of, rows_of, run, written
+from cartoons import SHOP, Held, Window, pieces_of, rows_of, run, written
 from leadstrips.shop import pieces, strips
 
 SIDE = 1048575
@@ -177,6 +177,11 @@ class NothingKept(unittest.TestCase):
                 before = list(cartoon)
                 pieces(1, 1, bar, 2, 1, cartoon)
                 self.assertEqual(cartoon, before)
+
+    def test_it_is_not_changed_for_a_while_either(self):
+        for cartoon in (run(), run()[:-1]):
+            for bar in (60, 40, 26):
+                self.assertEqual(pieces(1, 1, bar, 2, 1, Held(cartoon)), pieces(1, 1, bar, 2, 1, cartoon))
 
     def test_a_second_call_answers_the_same(self):
         first = pieces(1, 1, 40, 2, 1, run())

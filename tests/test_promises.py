@@ -6,7 +6,7 @@ import unittest
 from fractions import Fraction
 
 from cartoons import Window, pieces_of, rows_of
-from leadstrips.shop import bars, pieces, strips
+from leadstrips.shop import bars, judge, pieces, strips
 
 CELL = 20
 BENDS = ((0, 1), (1, 10), (1, 2), (1, 1), (3, 1), (1000, 1))
@@ -328,6 +328,16 @@ class Bars(unittest.TestCase):
                     there = [lengths[other] for other in order[:i] if row[other] == earlier]
                     self.assertTrue(there)
                     self.assertGreater(sum(there) + lengths[piece] + loss * len(there), bar)
+
+    def test_judge_finds_nothing_on_them(self):
+        for cartoon, shop, lengths, (ok, count, *row) in self.each:
+            self.assertEqual(judge(*shop, cartoon, row), [0])
+
+    def test_judge_finds_two_bars_put_together(self):
+        for cartoon, shop, lengths, (ok, count, *row) in self.each:
+            if max(row) > 0:
+                last = max(row)
+                self.assertEqual(judge(*shop, cartoon, [min(number, last - 1) for number in row]), [0, 1, last - 1])
 
 
 if __name__ == "__main__":

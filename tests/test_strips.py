@@ -1,6 +1,6 @@
 import unittest
 
-from cartoons import SHOP, Window, rows_of, run
+from cartoons import SHOP, Held, Window, rows_of, run
 from leadstrips.shop import strips
 
 OCTAGON = [(30, 20), (40, 20), (50, 30), (50, 40), (40, 50), (30, 50), (20, 40), (20, 30)]
@@ -334,6 +334,11 @@ class NothingKept(unittest.TestCase):
             before = list(cartoon)
             strips(*SHOP, cartoon)
             self.assertEqual(cartoon, before)
+
+    def test_it_is_not_changed_for_a_while_either(self):
+        for cartoon in (run(), run()[:-1]):
+            for bar in (60, 40, 26):
+                self.assertEqual(strips(1, 1, bar, 2, 1, Held(cartoon)), strips(1, 1, bar, 2, 1, cartoon))
 
     def test_a_second_call_answers_the_same(self):
         first = strips(*SHOP, run())
