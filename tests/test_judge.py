@@ -1,7 +1,7 @@
 import random
 import unittest
 
-from cartoons import SHOP, Held, Window, fence, pieces_of, run
+from cartoons import SHOP, Window, fence, pieces_of, run
 from leadstrips.shop import bars, judge, pieces
 
 MOST = 2 ** 65 - 1
@@ -180,71 +180,6 @@ class ManyPieces(unittest.TestCase):
         row[best.index(max(best))] = max(max(best) - 1, 0)
         answer = too_much(lengths, row, shop[2], shop[4])
         self.assertEqual(judge(*shop, window.cartoon, row), answer)
-
-
-class Refusals(unittest.TestCase):
-    def test_each_number_just_within_its_bounds(self):
-        for shop in ((0, 1, 60, 2, 1), (1000, 1000, 60, 2, 1), (1, 1, 16777215, 65535, 65535), (1, 1, 60, 0, 0)):
-            row = [0] * bars(*shop, run())[1]
-            self.assertEqual(judge(*shop, run(), row)[0], 0)
-
-    def test_each_number_out_of_its_bounds(self):
-        beyond = ((1001,), (0, 1001), (0, 16777216), (65536,), (65536,))
-        for place, values in enumerate(beyond):
-            for value in values + (2 ** 32, 2 ** 64, MOST):
-                shop = list(SHOP)
-                shop[place] = value
-                for cartoon in (run(), [], run()[:-1], [0] * 131073):
-                    self.assertEqual(judge(*shop, cartoon, [1, 0]), [-1])
-
-    def test_too_many_bytes(self):
-        self.assertEqual(judge(*SHOP, [0] * 131073, [1, 0]), [-6])
-        self.assertEqual(judge(*SHOP, [0] * 131072, [1, 0]), [-5, 1, 0])
-
-    def test_the_same_refusals_as_of_pieces(self):
-        cartoon = run()
-        for bar in (26, 60):
-            for i in range(len(cartoon)):
-                for value in (0, 1, 255):
-                    changed = cartoon[:i] + [value] + cartoon[i + 1:]
-                    told = pieces(1, 1, bar, 2, 1, changed)
-                    answer = judge(1, 1, bar, 2, 1, changed, [0] * 2000)
-                    self.assertEqual(answer, told if told[0] < 0 else [-2])
-
-
-class NothingKept(unittest.TestCase):
-    def test_what_is_handed_in_stays_as_it_was(self):
-        for cartoon in (run(), run()[:-1], []):
-            for bar in (60, 40, 26):
-                for row in ([1, 0], [0, 0, 0], [5, 0, MOST], []):
-                    kept, written_out = list(cartoon), list(row)
-                    judge(1, 1, bar, 2, 1, cartoon, row)
-                    self.assertEqual((cartoon, row), (kept, written_out))
-
-    def test_it_is_not_changed_for_a_while_either(self):
-        for cartoon in (run(), run()[:-1]):
-            for bar in (62, 60, 40, 26):
-                for row in ([0, 0], [1, 0, 1], []):
-                    plain = judge(1, 1, bar, 2, 1, cartoon, row)
-                    self.assertEqual(judge(1, 1, bar, 2, 1, Held(cartoon), Held(row)), plain)
-
-    def test_a_second_call_answers_the_same(self):
-        first = judge(1, 1, 61, 2, 1, run(), [4, 4])
-        judge(1, 1, 62, 2, 1, run(), [4, 4])
-        first.append(7)
-        self.assertEqual(judge(1, 1, 61, 2, 1, run(), [4, 4]), [0, 1, 4])
-        self.assertEqual(judge(1, 1, 61, 2, 1, run(), [4, 5]), [0])
-        for cartoon in (run(), run()[:-1]):
-            for row in ([1, 0], [0, 0], [0, 0, 0], []):
-                for bar in (60, 40, 26):
-                    once = judge(1, 1, bar, 2, 1, cartoon, row)
-                    self.assertEqual(judge(1, 1, bar, 2, 1, cartoon, row), once)
-
-    def test_the_answer_is_a_list_of_whole_numbers(self):
-        for a, bar, row in ((1, 60, [0, 0]), (1, 60, [1, 0]), (1, 26, [1, 0]), (1001, 60, [1, 0]), (1, 60, [])):
-            answer = judge(a, 1, bar, 2, 1, run(), row)
-            self.assertIs(type(answer), list)
-            self.assertTrue(all(type(value) is int for value in answer))
 
 
 if __name__ == "__main__":

@@ -1,6 +1,6 @@
 import unittest
 
-from cartoons import SHOP, Held, Window, pieces_of, rows_of, run, written
+from cartoons import Window, pieces_of, rows_of, run, written
 from leadstrips.shop import pieces, strips
 
 SIDE = 1048575
@@ -120,84 +120,10 @@ class TooLong(unittest.TestCase):
         self.assertEqual(pieces(1, 1, 1, 0, 0, run()), [-3, 1])
         self.assertEqual(pieces(1, 1, 22, 0, 0, run()), [-3, 3])
 
-    def test_strips_are_told_all_the_same(self):
-        self.assertEqual(strips(1, 1, 1, 2, 1, run())[0], 0)
-
     def test_a_line_on_the_edge_is_never_too_long(self):
         self.assertEqual(pieces(1, 1, 27, 2, 1, run())[0], 0)
         window = Window(1000, 1000, [((0, 10), (10, 0))])
         self.assertEqual(pieces(1, 1, 15, 0, 0, window.cartoon), window.pieces((15, [(10, 0), (0, 10)])))
-
-    def test_a_broken_rule_is_told_ahead_of_it(self):
-        self.assertEqual(pieces(1, 1, 26, 2, 1, run(marks=[(15, 2), (2, 10)])), [-5, 13, 112])
-        self.assertEqual(pieces(1, 1, 1, 2, 1, run()[:-1]), [-5, 3, 20])
-        self.assertEqual(pieces(1, 1, 1, 2, 1, []), [-5, 1, 0])
-
-    def test_a_shop_out_of_its_bounds_is_told_ahead_of_it(self):
-        self.assertEqual(pieces(1001, 1, 26, 2, 1, run()), [-1])
-        self.assertEqual(pieces(1, 1, 0, 2, 1, run()), [-1])
-        self.assertEqual(pieces(1, 1, 26, 2, 65536, run()), [-1])
-
-
-class Refusals(unittest.TestCase):
-    def test_each_number_just_within_its_bounds(self):
-        for shop in ((0, 1, 60, 2, 1), (1000, 1000, 60, 2, 1), (1, 1, 16777215, 0, 0), (1, 1, 16777215, 65535, 65535)):
-            self.assertEqual(pieces(*shop, run())[0], 0)
-        self.assertEqual(pieces(1, 1, 1, 65535, 1, run()), [-3, 1])
-
-    def test_each_number_out_of_its_bounds(self):
-        beyond = ((1001,), (0, 1001), (0, 16777216), (65536,), (65536,))
-        for place, values in enumerate(beyond):
-            for value in values + (2 ** 32, 2 ** 64, 2 ** 65 - 1):
-                shop = list(SHOP)
-                shop[place] = value
-                for cartoon in (run(), [], run()[:-1], [0] * 131073):
-                    self.assertEqual(pieces(*shop, cartoon), [-1])
-
-    def test_too_many_bytes(self):
-        self.assertEqual(pieces(*SHOP, [0] * 131073), [-6])
-        self.assertEqual(pieces(*SHOP, [0] * 131072), [-5, 1, 0])
-
-    def test_the_same_faults_as_of_strips(self):
-        cartoon = run()
-        for i in range(len(cartoon)):
-            for value in (0, 1, 255):
-                changed = cartoon[:i] + [value] + cartoon[i + 1:]
-                told = strips(1, 1, 16777215, 2, 1, changed)
-                answer = pieces(1, 1, 16777215, 2, 1, changed)
-                self.assertEqual(answer[0], told[0])
-                if told[0] < 0:
-                    self.assertEqual(answer, told)
-
-
-class NothingKept(unittest.TestCase):
-    def test_what_is_handed_in_stays_as_it_was(self):
-        for cartoon in (run(), run()[:-1], []):
-            for bar in (60, 40, 26):
-                before = list(cartoon)
-                pieces(1, 1, bar, 2, 1, cartoon)
-                self.assertEqual(cartoon, before)
-
-    def test_it_is_not_changed_for_a_while_either(self):
-        for cartoon in (run(), run()[:-1]):
-            for bar in (60, 40, 26):
-                self.assertEqual(pieces(1, 1, bar, 2, 1, Held(cartoon)), pieces(1, 1, bar, 2, 1, cartoon))
-
-    def test_a_second_call_answers_the_same(self):
-        first = pieces(1, 1, 40, 2, 1, run())
-        kept = list(first)
-        pieces(1, 1, 60, 2, 1, STRAIGHT.cartoon)
-        first.append(7)
-        self.assertEqual(pieces(1, 1, 40, 2, 1, run()), kept)
-        for cartoon in (run(), run()[:-1], STRAIGHT.cartoon):
-            for bar in (40, 26):
-                self.assertEqual(pieces(1, 1, bar, 2, 1, cartoon), pieces(1, 1, bar, 2, 1, cartoon))
-
-    def test_the_answer_is_a_list_of_whole_numbers(self):
-        for a, bar, cartoon in ((1, 60, run()), (1, 26, run()), (1001, 60, run()), (1, 60, [])):
-            answer = pieces(a, 1, bar, 2, 1, cartoon)
-            self.assertIs(type(answer), list)
-            self.assertTrue(all(type(value) is int for value in answer))
 
 
 class Large(unittest.TestCase):

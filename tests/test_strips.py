@@ -1,6 +1,6 @@
 import unittest
 
-from cartoons import SHOP, Held, Window, rows_of, run
+from cartoons import Window, rows_of, run
 from leadstrips.shop import strips
 
 OCTAGON = [(30, 20), (40, 20), (50, 30), (50, 40), (40, 50), (30, 50), (20, 40), (20, 30)]
@@ -298,61 +298,6 @@ class Large(StripTest):
         lower = [window.numbers[end] for end in ends[:195] if end[1] == 0]
         self.assertEqual([row[0] for row in rows], lower)
         self.assertEqual([len(row) for row in rows], [2] + [3] * 97)
-
-
-class TheShop(unittest.TestCase):
-    def test_each_number_just_within_its_bounds(self):
-        for place, bounds in enumerate(((0, 1000), (1, 1000), (1, 16777215), (0, 65535), (0, 65535))):
-            for value in bounds:
-                shop = list(SHOP)
-                shop[place] = value
-                self.assertEqual(strips(*shop, run())[0], 0, shop)
-
-    def test_each_number_out_of_its_bounds(self):
-        beyond = ((1001,), (0, 1001), (0, 16777216), (65536,), (65536,))
-        for place, values in enumerate(beyond):
-            for value in values + (2 ** 32, 2 ** 63, 2 ** 64, 2 ** 65 - 1):
-                shop = list(SHOP)
-                shop[place] = value
-                self.assertEqual(strips(*shop, run()), [-1], shop)
-
-    def test_it_is_looked_at_ahead_of_the_cartoon(self):
-        for cartoon in ([], run()[:19], run(width=0), run()[:-1], run(marks=[(15, 2), (2, 10)]), [0] * 131073):
-            self.assertEqual(strips(1001, 1, 60, 2, 1, cartoon), [-1])
-            self.assertEqual(strips(1, 1, 60, 2, 65536, cartoon), [-1])
-            self.assertNotEqual(strips(*SHOP, cartoon), [-1])
-
-    def test_too_many_bytes_are_looked_at_ahead_of_their_faults(self):
-        self.assertEqual(strips(*SHOP, [0] * 131073), [-6])
-        self.assertEqual(strips(*SHOP, [0] * 131072), [-5, 1, 0])
-        self.assertEqual(strips(*SHOP, [0] * 100000), [-5, 1, 0])
-
-
-class NothingKept(unittest.TestCase):
-    def test_what_is_handed_in_stays_as_it_was(self):
-        for cartoon in (run(), run()[:-1], run(marks=[(15, 2), (16, 2)]), []):
-            before = list(cartoon)
-            strips(*SHOP, cartoon)
-            self.assertEqual(cartoon, before)
-
-    def test_it_is_not_changed_for_a_while_either(self):
-        for cartoon in (run(), run()[:-1]):
-            for bar in (60, 40, 26):
-                self.assertEqual(strips(1, 1, bar, 2, 1, Held(cartoon)), strips(1, 1, bar, 2, 1, cartoon))
-
-    def test_a_second_call_answers_the_same(self):
-        first = strips(*SHOP, run())
-        kept = list(first)
-        strips(0, 1, 60, 2, 1, Window(40, 40, [((0, 0), (40, 40))]).cartoon)
-        first.append(7)
-        self.assertEqual(strips(*SHOP, run()), kept)
-        for cartoon in (run(), run()[:-1], Window(40, 40, [((0, 0), (40, 40))]).cartoon):
-            self.assertEqual(strips(*SHOP, cartoon), strips(*SHOP, cartoon))
-
-    def test_the_answer_is_a_list_of_whole_numbers(self):
-        for answer in (strips(*SHOP, run()), strips(0, 0, 0, 0, 0, []), strips(*SHOP, [])):
-            self.assertIs(type(answer), list)
-            self.assertTrue(all(type(value) is int for value in answer))
 
 
 if __name__ == "__main__":
