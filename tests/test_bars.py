@@ -72,6 +72,12 @@ class TheRun(unittest.TestCase):
         self.told(52, 1, 0, joint=0, loss=0)
         self.told(60, 1, 0, 2, joint=12)
 
+    def test_other_bends(self):
+        for a, b in ((0, 1), (333, 1000)):
+            self.assertEqual(bars(a, b, 60, 2, 1, run()), [0, 3, 0, 0, 1])
+        for a, b in ((1, 3), (1000, 333)):
+            self.assertEqual(bars(a, b, 60, 2, 1, run()), [0, 2, 1, 0])
+
     def test_a_strip_in_more_pieces_on_more_bars(self):
         self.told(41, 1, 0, 1)
         self.told(42, 1, 0)

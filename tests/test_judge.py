@@ -51,6 +51,14 @@ class TheRun(unittest.TestCase):
         self.told(38, [0, 1, 0], 0, 1, 0)
         self.told(38, [0, 1, 0], 0, loss=0)
 
+    def test_other_bends(self):
+        for a, b in ((0, 1), (333, 1000)):
+            self.assertEqual(judge(a, b, 60, 2, 1, run(), [0, 0, 1]), [0])
+            self.assertEqual(judge(a, b, 60, 2, 1, run(), [1, 0]), [-2])
+        for a, b in ((1, 3), (1000, 333)):
+            self.assertEqual(judge(a, b, 60, 2, 1, run(), [0, 0, 1]), [-2])
+            self.assertEqual(judge(a, b, 60, 2, 1, run(), [1, 0]), [0])
+
     def test_a_lead_that_is_too_long(self):
         self.told(26, [1, 0], -3, 3)
         self.told(26, [0, 1, 2], -3, 3)
