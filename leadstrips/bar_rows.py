@@ -29,6 +29,11 @@ def bars_of(pieces_in_order, bar, loss):
     return row
 
 
+def bars_begun(pieces_in_order, bar, loss):
+    """How many bars the pieces come from."""
+    return len(set(bars_of(pieces_in_order, bar, loss)))
+
+
 def overfull_bar(pieces_in_order, row, bar, loss):
     """The least number of a bar on which there's too much if each piece is on its bar in the row, or None."""
     taken = {}

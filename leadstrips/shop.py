@@ -1,8 +1,11 @@
 """The calls: each takes a shop's five numbers and a cartoon's bytes, and answers with one list of whole numbers."""
 
+from leadstrips.bar_rows import bars_begun
 from leadstrips.bar_rows import bars_of
 from leadstrips.bar_rows import overfull_bar
 from leadstrips.drawing import drawing_of
+from leadstrips.joints import soldered_points
+from leadstrips.lengths import lengths_of
 from leadstrips.piece_rows import pieces_of
 from leadstrips.refusals import refusal_of
 from leadstrips.refusals import refusal_of_parting
@@ -56,3 +59,14 @@ def judge(a, b, bar, joint, loss, cartoon, row):
     if overfull is None:
         return [0]
     return [0, 1, overfull]
+
+
+def total(a, b, bar, joint, loss, cartoon):
+    """0, how many pieces, the lengths of all leads together, how many soldered joints, how many bars are begun."""
+    refusal = refusal_of_parting(a, b, bar, joint, loss, cartoon)
+    if refusal is not None:
+        return refusal
+    drawing = drawing_of(cartoon)
+    told = pieces_of(drawing, a, b, bar, joint)
+    length = sum(lengths_of(drawing).values())
+    return [0, len(told), length, len(soldered_points(drawing, a, b)), bars_begun(told, bar, loss)]

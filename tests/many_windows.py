@@ -145,3 +145,25 @@ def lengths_in(window):
         (px, py), (qx, qy) = [window.points[i] for i in window.lines[lead]]
         lengths[lead] = math.isqrt((qx - px) ** 2 + (qy - py) ** 2 - 1) + 1
     return lengths
+
+
+def none_bend_as_much(window, a, b):
+    """Whether no two of the pairs that go through a point bend as much there."""
+    bends = [[bend for bend, first, second in pairs] for pairs in through(window, a, b).values()]
+    return all(len(set(row)) == len(row) for row in bends)
+
+
+def kin_of(window):
+    """The same window mirrored and turned in each way."""
+    width, height = window.width, window.height
+    for size, moved in (
+        ((width, height), lambda x, y: (width - x, y)),
+        ((width, height), lambda x, y: (x, height - y)),
+        ((width, height), lambda x, y: (width - x, height - y)),
+        ((height, width), lambda x, y: (y, x)),
+        ((height, width), lambda x, y: (height - y, x)),
+        ((height, width), lambda x, y: (y, width - x)),
+        ((height, width), lambda x, y: (height - y, width - x)),
+    ):
+        leads = [tuple(moved(*window.points[i]) for i in window.lines[lead]) for lead in window.leads]
+        yield Window(*size, leads, [moved(*point) for point in window.points])

@@ -3,13 +3,13 @@
 import unittest
 
 from cartoons import SHOP, Held, Window, run
-from leadstrips.shop import bars, judge, pieces, strips
+from leadstrips.shop import bars, judge, pieces, strips, total
 
 MOST = 2 ** 65 - 1
 DIAGONAL = Window(40, 40, [((0, 0), (40, 40))]).cartoon
 
 # Each call, and what it takes beside a shop and a cartoon.
-CALLS = [(strips, []), (pieces, []), (bars, []), (judge, [[1, 0]])]
+CALLS = [(strips, []), (pieces, []), (bars, []), (total, []), (judge, [[1, 0]])]
 PARTING = CALLS[1:]
 
 # Each cartoon with what is wrong with it if the shop is not.
@@ -104,8 +104,8 @@ class TooLong(unittest.TestCase):
         self.assertEqual(strips(1, 1, 1, 65535, 1, run()), [0, 2, 2, 0, 2, 3, 1, 2, 3])
 
     def test_with_bars_that_are_just_long_enough(self):
-        for call, more in CALLS[1:3]:
-            self.assertEqual(call(1, 1, 27, 2, 1, run(), *more)[:2], [0, 3])
+        for call in (pieces, bars, total):
+            self.assertEqual(call(1, 1, 27, 2, 1, run())[:2], [0, 3])
         self.assertEqual(judge(1, 1, 27, 2, 1, run(), [0, 1, 2]), [0])
 
 

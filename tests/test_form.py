@@ -12,6 +12,7 @@ CALLS = {
         "pieces": "a b bar joint loss cartoon",
         "bars": "a b bar joint loss cartoon",
         "judge": "a b bar joint loss cartoon row",
+        "total": "a b bar joint loss cartoon",
     },
 }
 

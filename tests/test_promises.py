@@ -2,9 +2,9 @@
 
 import unittest
 
-from cartoons import Window, pieces_of, rows_of
+from cartoons import pieces_of, rows_of
 from leadstrips.shop import bars, judge, pieces, strips
-from many_windows import WINDOWS, joined_pairs, leads_along, lengths_in, through
+from many_windows import WINDOWS, joined_pairs, kin_of, leads_along, lengths_in, none_bend_as_much, through
 
 BENDS = ((0, 1), (1, 10), (1, 2), (1, 1), (3, 1), (1000, 1))
 
@@ -62,16 +62,10 @@ class Strips(unittest.TestCase):
 
     def test_mirrored_or_turned_there_are_as_many(self):
         for window in WINDOWS:
-            bends = [[bend for bend, first, second in pairs] for pairs in through(window, 1, 1).values()]
-            if all(len(set(row)) == len(row) for row in bends):
+            if none_bend_as_much(window, 1, 1):
                 count = strips(1, 1, 60, 2, 1, window.cartoon)[1]
-                width, height = window.width, window.height
-                for kin in (lambda x, y: (width - x, y), lambda x, y: (x, height - y), lambda x, y: (height - y, x)):
-                    corner = max(kin(0, 0), kin(width, height)), max(kin(0, height), kin(width, 0))
-                    size = max(point[0] for point in corner), max(point[1] for point in corner)
-                    leads = [tuple(kin(*window.points[i]) for i in window.lines[lead]) for lead in window.leads]
-                    other = Window(*size, leads, [kin(*point) for point in window.points])
-                    self.assertEqual(strips(1, 1, 60, 2, 1, other.cartoon)[1], count)
+                for kin in kin_of(window):
+                    self.assertEqual(strips(1, 1, 60, 2, 1, kin.cartoon)[1], count)
 
 
 class Pieces(unittest.TestCase):
