@@ -1,1 +1,1 @@
-"""Leads: the strips of a cartoon's leads, and their pieces."""
+"""Leads: the strips of a cartoon's leads, their pieces, and the bars that these come from."""

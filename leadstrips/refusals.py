@@ -35,3 +35,10 @@ def refusal_of_parting(a, b, bar, joint, loss, cartoon):
     if too_long is not None:
         return [-3, too_long]
     return None
+
+
+def refusal_of_number(number):
+    """The refusal of a number of which no root is told, or None."""
+    if 0 <= number < 2 ** 64:
+        return None
+    return [-1]

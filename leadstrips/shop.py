@@ -1,4 +1,4 @@
-"""The calls: each takes a shop's five numbers and a cartoon's bytes, and answers with one list of whole numbers."""
+"""The calls: each answers with one list of whole numbers; all but root take a shop's five numbers and a cartoon."""
 
 from leadstrips.bar_rows import bars_begun
 from leadstrips.bar_rows import bars_of
@@ -6,8 +6,10 @@ from leadstrips.bar_rows import overfull_bar
 from leadstrips.drawing import drawing_of
 from leadstrips.joints import soldered_points
 from leadstrips.lengths import lengths_of
+from leadstrips.lengths import root_above
 from leadstrips.piece_rows import pieces_of
 from leadstrips.refusals import refusal_of
+from leadstrips.refusals import refusal_of_number
 from leadstrips.refusals import refusal_of_parting
 from leadstrips.strip_rows import strips_of
 
@@ -70,3 +72,11 @@ def total(a, b, bar, joint, loss, cartoon):
     told = pieces_of(drawing, a, b, bar, joint)
     length = sum(lengths_of(drawing).values())
     return [0, len(told), length, len(soldered_points(drawing, a, b)), bars_begun(told, bar, loss)]
+
+
+def root(number):
+    """0 and the least number whose square is at least the number."""
+    refusal = refusal_of_number(number)
+    if refusal is not None:
+        return refusal
+    return [0, root_above(number)]

@@ -1,22 +1,21 @@
 """Windows made at random (the same ones every time), and plain readings of what the document says of them."""
 
+import functools
 import math
 import random
 from fractions import Fraction
 
 from cartoons import Window
 
-CELL = 20
 
-
-def grid(chance, columns, rows, jitter):
+def grid(chance, columns, rows, cell, jitter):
     """Points in rows and columns, those within the frame a little out of place."""
     points = {}
     for x in range(columns + 1):
         for y in range(rows + 1):
             dx = chance.randint(-jitter, jitter) if 0 < x < columns else 0
             dy = chance.randint(-jitter, jitter) if 0 < y < rows else 0
-            points[(x, y)] = (CELL * x + dx, CELL * y + dy)
+            points[(x, y)] = (cell * x + dx, cell * y + dy)
     return points
 
 
@@ -78,23 +77,27 @@ def on_edge_beyond(point):
     return (x, 200 if y > 100 else 0)
 
 
-def random_window(seed):
+def random_window(seed, scale=1):
+    """A window of cells, some with a lead across, from which some leads are taken out again."""
     chance = random.Random(seed)
     columns, rows, jitter = chance.randint(2, 5), chance.randint(2, 4), chance.choice((0, 2, 5))
-    points = grid(chance, columns, rows, jitter)
+    cell = 20 * scale
+    points = grid(chance, columns, rows, cell, jitter * scale)
     leads = grid_leads(chance, points, columns, rows)
     chance.shuffle(leads)
     on_edge = [point for (x, y), point in points.items() if x in (0, columns) or y in (0, rows)]
-    window = Window(CELL * columns, CELL * rows, leads, on_edge)
+    window = Window(cell * columns, cell * rows, leads, on_edge)
     edges = [line for i, line in enumerate(window.lines) if i not in window.leads]
     for lead in list(leads)[:chance.randint(0, len(leads))]:
         kept = [other for other in leads if other != lead]
         if holds_together(range(len(window.points)), edges + [window.pair(p, q) for p, q in kept]):
             leads = kept
-    return Window(CELL * columns, CELL * rows, leads, on_edge)
+    return Window(cell * columns, cell * rows, leads, on_edge)
 
 
 WINDOWS = [random_window(seed) for seed in range(60)] + [wheel_window(seed) for seed in range(20)]
+# As wide as cartoons may be, or nearly so.
+WINDOWS += [random_window(seed, 10485) for seed in range(20)]
 
 
 def through(window, a, b):
@@ -153,9 +156,11 @@ def none_bend_as_much(window, a, b):
     return all(len(set(row)) == len(row) for row in bends)
 
 
+@functools.cache
 def kin_of(window):
     """The same window mirrored and turned in each way."""
     width, height = window.width, window.height
+    kin = []
     for size, moved in (
         ((width, height), lambda x, y: (width - x, y)),
         ((width, height), lambda x, y: (x, height - y)),
@@ -166,4 +171,5 @@ def kin_of(window):
         ((height, width), lambda x, y: (height - y, width - x)),
     ):
         leads = [tuple(moved(*window.points[i]) for i in window.lines[lead]) for lead in window.leads]
-        yield Window(*size, leads, [moved(*point) for point in window.points])
+        kin.append(Window(*size, leads, [moved(*point) for point in window.points]))
+    return kin

@@ -1,14 +1,20 @@
 """What is so with every call: what it refuses first, and that it changes nothing and keeps nothing."""
 
+import contextlib
+import inspect
+import io
+import random
+import sys
 import unittest
 
 from cartoons import SHOP, Held, Window, run
-from leadstrips.shop import bars, judge, pieces, strips, total
+from leadstrips.shop import bars, judge, pieces, root, strips, total
+from many_windows import WINDOWS
 
 MOST = 2 ** 65 - 1
 DIAGONAL = Window(40, 40, [((0, 0), (40, 40))]).cartoon
 
-# Each call, and what it takes beside a shop and a cartoon.
+# Each call but root, and what it takes beside a shop and a cartoon.
 CALLS = [(strips, []), (pieces, []), (bars, []), (total, []), (judge, [[1, 0]])]
 PARTING = CALLS[1:]
 
@@ -142,6 +148,71 @@ class NothingKept(unittest.TestCase):
                     answer = call(*shop, cartoon, *more)
                     self.assertIs(type(answer), list)
                     self.assertTrue(all(type(value) is int for value in answer))
+
+
+class InTurn(unittest.TestCase):
+    """All six calls, asked again and again in one order and another."""
+
+    @classmethod
+    def setUpClass(cls):
+        cls.asked = [(root, (number,)) for number in (0, 1, 2, 200, 53 * 53, 2 ** 64 - 1, 2 ** 64, MOST)]
+        cartoons = [cartoon for cartoon, refusal in CARTOONS[:-3]] + [window.cartoon for window in WINDOWS[::13]]
+        for cartoon in cartoons:
+            for shop in (SHOP, (0, 1, 40, 2, 1), (1, 1, 16777215, 3, 9), (1, 1, 26, 2, 1), (1, 0, 60, 2, 1)):
+                row = bars(*shop, cartoon)[2:]
+                for call, more in ((strips, []), (pieces, []), (bars, []), (total, []), (judge, [row])):
+                    cls.asked.append((call, (*shop, cartoon, *more)))
+
+    def test_the_same_is_answered(self):
+        first = [call(*what) for call, what in self.asked]
+        self.assertGreater(len({tuple(answer) for answer in first}), 50)
+        kept = [list(answer) for answer in first]
+        for answer in first:
+            answer.append(7)
+        for seed in range(3):
+            order = list(range(len(self.asked)))
+            random.Random(seed).shuffle(order)
+            for i in order:
+                call, what = self.asked[i]
+                self.assertEqual(call(*what), kept[i])
+                self.assertEqual(call(*what), kept[i])
+
+    def test_in_turn_with_each_other_call(self):
+        some = [(root, (200,))] + [(call, (*SHOP, run(), *more)) for call, more in CALLS]
+        others = some + [(call, (0, 1, 200, 7, 3, DIAGONAL, *more)) for call, more in CALLS] + [(root, (MOST,))]
+        for call, what in some:
+            told = call(*what)
+            for other, with_what in others:
+                other(*with_what)
+                self.assertEqual(call(*what), told)
+
+    def test_nothing_is_printed_and_nothing_imported(self):
+        modules = set(sys.modules)
+        printed = io.StringIO()
+        with contextlib.redirect_stdout(printed), contextlib.redirect_stderr(printed):
+            for call, what in self.asked:
+                call(*what)
+        self.assertEqual(printed.getvalue(), "")
+        self.assertEqual(set(sys.modules), modules)
+
+
+class Loops(unittest.TestCase):
+    def test_calls_within_one_another_stay_few(self):
+        row = [(x, 20) for x in range(196)]
+        posts = [((5 * x, 0), (5 * x, 20)) for x in range(1, 99)]
+        windows = [Window(195, 40, list(zip(row, row[1:]))), Window(495, 20, posts)]
+        asked = [(root, (2 ** 64 - 1,))]
+        for window in windows:
+            self.assertEqual(len(window.points), 200)
+            asked += [(call, (1, 1, 20, 0, 0, window.cartoon, *more)) for call, more in CALLS]
+        limit = sys.getrecursionlimit()
+        sys.setrecursionlimit(len(inspect.stack()) + 40)
+        try:
+            told = [call(*what)[0] for call, what in asked]
+        finally:
+            sys.setrecursionlimit(limit)
+        # judge is handed two bars for the many pieces.
+        self.assertEqual(told, [0] + [0, 0, 0, 0, -2] * 2)
 
 
 if __name__ == "__main__":

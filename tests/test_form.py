@@ -13,6 +13,7 @@ CALLS = {
         "bars": "a b bar joint loss cartoon",
         "judge": "a b bar joint loss cartoon row",
         "total": "a b bar joint loss cartoon",
+        "root": "number",
     },
 }
 
