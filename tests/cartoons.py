@@ -168,6 +168,18 @@ def fence(lengths, height=16):
     return Window(max(at, 16), height, posts)
 
 
+def two_on_each_edge():
+    """Edge by edge a point of it at which two leads end that would go through it within the frame, and its window."""
+    for place, ends, far in (
+        ((0, 20), ((3, 3), (3, 37)), (40, 20)),
+        ((40, 20), ((37, 3), (37, 37)), (0, 20)),
+        ((20, 0), ((3, 3), (37, 3)), (20, 40)),
+        ((20, 40), ((3, 37), (37, 37)), (20, 0)),
+    ):
+        leads = [(place, ends[0]), (place, ends[1]), (ends[0], (20, 20)), (ends[1], (20, 20)), ((20, 20), far)]
+        yield place, Window(40, 40, leads)
+
+
 class Held(list):
     """A list that may be read and not changed, not for a while either."""
 

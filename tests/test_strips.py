@@ -1,6 +1,6 @@
 import unittest
 
-from cartoons import Window, rows_of, run
+from cartoons import Window, rows_of, run, two_on_each_edge
 from leadstrips.shop import strips
 
 OCTAGON = [(30, 20), (40, 20), (50, 30), (50, 40), (40, 50), (30, 50), (20, 40), (20, 30)]
@@ -146,14 +146,7 @@ class OrderOfPairs(StripTest):
 
 class OnTheFrame(StripTest):
     def test_at_its_edge_none_are_joined(self):
-        for place, ends, far in (
-            ((0, 20), ((3, 3), (3, 37)), (40, 20)),
-            ((40, 20), ((37, 3), (37, 37)), (0, 20)),
-            ((20, 0), ((3, 3), (37, 3)), (20, 40)),
-            ((20, 40), ((3, 37), (37, 37)), (20, 0)),
-        ):
-            leads = [(place, ends[0]), (place, ends[1]), (ends[0], (20, 20)), (ends[1], (20, 20)), ((20, 20), far)]
-            window = Window(40, 40, leads)
+        for place, window in two_on_each_edge():
             self.assertTrue(window.whole)
             rows = rows_of(strips(1000, 1, 60, 2, 1, window.cartoon))
             at = window.numbers[place]

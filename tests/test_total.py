@@ -1,7 +1,7 @@
 import random
 import unittest
 
-from cartoons import RUN_LINES, SHOP, Window, fence, pieces_of, run
+from cartoons import RUN_LINES, SHOP, Window, fence, pieces_of, run, two_on_each_edge
 from leadstrips.shop import bars, pieces, strips, total
 from many_windows import WINDOWS, joined_pairs, kin_of, lengths_in, none_bend_as_much
 
@@ -141,14 +141,8 @@ class SolderedJoints(unittest.TestCase):
             self.joints(5, window, a, b)
 
     def test_two_on_the_edge_that_would_go_through(self):
-        for place, ends, far in (
-            ((0, 20), ((3, 3), (3, 37)), (40, 20)),
-            ((40, 20), ((37, 3), (37, 37)), (0, 20)),
-            ((20, 0), ((3, 3), (37, 3)), (20, 40)),
-            ((20, 40), ((3, 37), (37, 37)), (20, 0)),
-        ):
-            leads = [(place, ends[0]), (place, ends[1]), (ends[0], (20, 20)), (ends[1], (20, 20)), ((20, 20), far)]
-            self.joints(5, Window(40, 40, leads), 1000, 1)
+        for place, window in two_on_each_edge():
+            self.joints(5, window, 1000, 1)
 
     def test_two_just_within_the_edge(self):
         window = Window(40, 40, [((0, 3), (1, 20)), ((1, 20), (20, 40))])
